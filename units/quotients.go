@@ -1,12 +1,15 @@
 package units
 
-import "boule/api"
+import (
+	"boule/api"
+	"boule/check"
+)
 
 // MulDiv returns a times b divided by c, rounded, and what is left of a times b.
 func MulDiv(a, b, c int, how api.Rounding) (n, rest int, e api.Errno) {
-	e = firstError(
-		condition{api.ErrArg, func() bool { return how == api.Down || how == api.Up || how == api.Near }},
-		condition{api.ErrRange, func() bool { return areNumbers(a, b) && isDivisor(c) }},
+	e = check.First(
+		check.Unless(api.ErrArg, func() bool { return how == api.Down || how == api.Up || how == api.Near }),
+		check.Unless(api.ErrRange, func() bool { return areNumbers(a, b) && isDivisor(c) }),
 	)
 	if e != api.OK {
 		return 0, 0, e
@@ -20,7 +23,7 @@ func MulDiv(a, b, c int, how api.Rounding) (n, rest int, e api.Errno) {
 
 // Compare returns 1 if the first fraction is greater, -1 if the second one is, and 0 if they are equal.
 func Compare(a, b api.Frac) (int, api.Errno) {
-	if e := firstError(validFractions(a, b)); e != api.OK {
+	if e := check.First(validFractions(a, b)); e != api.OK {
 		return 0, e
 	}
 	return compareFractions(a, b), api.OK
@@ -32,9 +35,9 @@ func compareFractions(a, b api.Frac) int {
 
 // Simplest returns the fraction with the least Den from one fraction to another one.
 func Simplest(a, b api.Frac) (api.Frac, api.Errno) {
-	e := firstError(
+	e := check.First(
 		validFractions(a, b),
-		condition{api.ErrArg, func() bool { return compareFractions(a, b) <= 0 }},
+		check.Unless(api.ErrArg, func() bool { return compareFractions(a, b) <= 0 }),
 	)
 	if e != api.OK {
 		return api.Frac{}, e
@@ -64,11 +67,11 @@ func Portions(n int, weights []int) ([]int, api.Errno) {
 	for _, w := range weights {
 		sum += w // A sum that wraps around has one of the earlier errors.
 	}
-	e := firstError(
-		atMost(api.MaxPortions, len(weights)),
-		condition{api.ErrRange, func() bool { return areAmounts(n) && areAmounts(weights...) }},
-		condition{api.ErrOver, func() bool { return areNumbers(sum) }},
-		condition{api.ErrArg, func() bool { return sum > 0 }},
+	e := check.First(
+		check.AtMost(api.MaxPortions, len(weights)),
+		check.Unless(api.ErrRange, func() bool { return areAmounts(n) && areAmounts(weights...) }),
+		check.Unless(api.ErrOver, func() bool { return areNumbers(sum) }),
+		check.Unless(api.ErrArg, func() bool { return sum > 0 }),
 	)
 	if e != api.OK {
 		return nil, e

@@ -1,6 +1,9 @@
 package units
 
-import "boule/api"
+import (
+	"boule/api"
+	"boule/check"
+)
 
 // gathered is the least range that has all results that were added.
 type gathered struct {
@@ -62,7 +65,7 @@ func total(l []api.Range) api.Range {
 
 // Sum returns the range of all sums of one number of each range.
 func Sum(l []api.Range) (api.Range, api.Errno) {
-	if e := firstError(atMost(api.MaxRanges, len(l)), validRanges(l...)); e != api.OK {
+	if e := check.First(check.AtMost(api.MaxRanges, len(l)), validRanges(l...)); e != api.OK {
 		return api.Range{}, e
 	}
 	return limited(total(l))
@@ -70,7 +73,7 @@ func Sum(l []api.Range) (api.Range, api.Errno) {
 
 // Less returns the range of all differences.
 func Less(a, b api.Range) (api.Range, api.Errno) {
-	if e := firstError(validRanges(a, b)); e != api.OK {
+	if e := check.First(validRanges(a, b)); e != api.OK {
 		return api.Range{}, e
 	}
 	return limited(api.Range{Low: a.Low - b.High, High: a.High - b.Low})
@@ -78,7 +81,7 @@ func Less(a, b api.Range) (api.Range, api.Errno) {
 
 // Scale returns the least range that has all numbers of a range times a fraction.
 func Scale(r api.Range, f api.Frac) (api.Range, api.Errno) {
-	if e := firstError(validRanges(r), validFractions(f)); e != api.OK {
+	if e := check.First(validRanges(r), validFractions(f)); e != api.OK {
 		return api.Range{}, e
 	}
 	var g gathered
@@ -90,9 +93,9 @@ func Scale(r api.Range, f api.Frac) (api.Range, api.Errno) {
 
 // Times returns the least range that has all products, divided by a unit.
 func Times(a, b api.Range, unit int) (api.Range, api.Errno) {
-	e := firstError(
+	e := check.First(
 		validRanges(a, b),
-		condition{api.ErrRange, func() bool { return isDivisor(unit) }},
+		check.Unless(api.ErrRange, func() bool { return isDivisor(unit) }),
 	)
 	if e != api.OK {
 		return api.Range{}, e
@@ -108,9 +111,9 @@ func Times(a, b api.Range, unit int) (api.Range, api.Errno) {
 
 // Over returns the least range that has all quotients, times a unit.
 func Over(a, b api.Range, unit int) (api.Range, api.Errno) {
-	e := firstError(
+	e := check.First(
 		validRanges(a, b),
-		condition{api.ErrRange, func() bool { return isDivisor(unit) && b.Low >= 1 }},
+		check.Unless(api.ErrRange, func() bool { return isDivisor(unit) && b.Low >= 1 }),
 	)
 	if e != api.OK {
 		return api.Range{}, e
@@ -126,10 +129,10 @@ func Over(a, b api.Range, unit int) (api.Range, api.Errno) {
 
 // someRanges demands a list of ranges that is valid and not empty.
 func someRanges(l []api.Range) api.Errno {
-	return firstError(
-		atMost(api.MaxRanges, len(l)),
+	return check.First(
+		check.AtMost(api.MaxRanges, len(l)),
 		validRanges(l...),
-		condition{api.ErrArg, func() bool { return len(l) > 0 }},
+		check.Unless(api.ErrArg, func() bool { return len(l) > 0 }),
 	)
 }
 
@@ -163,7 +166,7 @@ func Hull(l []api.Range) (api.Range, api.Errno) {
 
 // Balance narrows ranges of parts, and of their sum, by each other.
 func Balance(parts []api.Range, whole api.Range) (narrow []api.Range, sum api.Range, e api.Errno) {
-	e = firstError(atMost(api.MaxRanges, len(parts)), validRanges(parts...), validRanges(whole))
+	e = check.First(check.AtMost(api.MaxRanges, len(parts)), validRanges(parts...), validRanges(whole))
 	if e != api.OK {
 		return nil, api.Range{}, e
 	}

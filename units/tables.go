@@ -4,6 +4,7 @@ import (
 	"iter"
 
 	"boule/api"
+	"boule/check"
 )
 
 // piece is the straight line between two neighbouring knots of a table.
@@ -70,14 +71,14 @@ func isTable(t []api.Knot) bool {
 }
 
 // CheckTable returns the error of a table.
-func CheckTable(t []api.Knot) api.Errno { return firstError(validTables(t)) }
+func CheckTable(t []api.Knot) api.Errno { return check.First(validTables(t)) }
 
 // Value returns the least range that has the values of a table at all integers of a range.
 func Value(t []api.Knot, x api.Range) (api.Range, api.Errno) {
-	e := firstError(
+	e := check.First(
 		validTables(t),
 		validRanges(x),
-		condition{api.ErrNone, func() bool { return x.Low >= t[0].X && x.High <= t[len(t)-1].X }},
+		check.Unless(api.ErrNone, func() bool { return x.Low >= t[0].X && x.High <= t[len(t)-1].X }),
 	)
 	if e != api.OK {
 		return api.Range{}, e
@@ -97,7 +98,7 @@ func Value(t []api.Knot, x api.Range) (api.Range, api.Errno) {
 
 // Where returns the runs of integers at which the value of a table is in a range.
 func Where(t []api.Knot, y api.Range) ([]api.Range, api.Errno) {
-	if e := firstError(validTables(t), validRanges(y)); e != api.OK {
+	if e := check.First(validTables(t), validRanges(y)); e != api.OK {
 		return nil, e
 	}
 	var runs []api.Range
@@ -134,7 +135,7 @@ func Inverse(t []api.Knot, y api.Range) (api.Range, api.Errno) {
 
 // Through returns the value of a range by tables, one after another.
 func Through(tables [][]api.Knot, x api.Range) (y api.Range, at int, e api.Errno) {
-	e = firstError(atMost(api.MaxTables, len(tables)), validTables(tables...), validRanges(x))
+	e = check.First(check.AtMost(api.MaxTables, len(tables)), validTables(tables...), validRanges(x))
 	if e != api.OK {
 		return api.Range{}, 0, e
 	}

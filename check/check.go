@@ -1,0 +1,45 @@
+// Package check finds the first of several errors.
+package check
+
+import "boule/api"
+
+// Condition returns the error of something that must hold, or OK. It is asked
+// only when all conditions before it hold, so that it may rely on them.
+type Condition func() api.Errno
+
+// First returns the error of the first condition that does not hold.
+func First(conditions ...Condition) api.Errno {
+	for _, c := range conditions {
+		if e := c(); e != api.OK {
+			return e
+		}
+	}
+	return api.OK
+}
+
+// Unless demands that something holds.
+func Unless(e api.Errno, holds func() bool) Condition {
+	return func() api.Errno {
+		if holds() {
+			return api.OK
+		}
+		return e
+	}
+}
+
+// AtMost demands that a list has at most so many elements.
+func AtMost(most, length int) Condition {
+	return Unless(api.ErrLong, func() bool { return length <= most })
+}
+
+// Each demands something of one element of a list after another.
+func Each[T any](l []T, demand func(i int, x T) api.Errno) Condition {
+	return func() api.Errno {
+		for i, x := range l {
+			if e := demand(i, x); e != api.OK {
+				return e
+			}
+		}
+		return api.OK
+	}
+}

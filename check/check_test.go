@@ -1,0 +1,56 @@
+package check_test
+
+import (
+	"slices"
+	"testing"
+
+	"boule/api"
+	"boule/check"
+)
+
+// R1: the error that is named first, and nothing behind it is asked.
+func TestFirst(t *testing.T) {
+	var asked []api.Errno
+	ask := func(e api.Errno, holds bool) check.Condition {
+		return check.Unless(e, func() bool {
+			asked = append(asked, e)
+			return holds
+		})
+	}
+	if e := check.First(ask(api.ErrArg, true), ask(api.ErrRange, false), ask(api.ErrNone, false)); e != api.ErrRange || !slices.Equal(asked, []api.Errno{api.ErrArg, api.ErrRange}) {
+		t.Error(e, asked)
+	}
+	if e := check.First(ask(api.ErrArg, true), ask(api.ErrRange, true)); e != api.OK {
+		t.Error(e)
+	}
+	if e := check.First(); e != api.OK {
+		t.Error(e)
+	}
+}
+
+// R7: a limit is allowed.
+func TestAtMost(t *testing.T) {
+	for length, want := range []api.Errno{api.OK, api.OK, api.OK, api.ErrLong} {
+		if e := check.First(check.AtMost(2, length)); e != want {
+			t.Error(length, e)
+		}
+	}
+}
+
+// R1: the first element with an error decides.
+func TestEach(t *testing.T) {
+	var seen []string
+	look := check.Each([]string{"a", "bb", "c", "dd"}, func(i int, x string) api.Errno {
+		seen = append(seen, x)
+		if len(x) == 1 {
+			return api.OK
+		}
+		return api.Errno(i)
+	})
+	if e := check.First(look); e != 1 || !slices.Equal(seen, []string{"a", "bb"}) {
+		t.Error(e, seen)
+	}
+	if e := check.First(check.Each(nil, func(int, string) api.Errno { return api.ErrArg })); e != api.OK {
+		t.Error(e)
+	}
+}
