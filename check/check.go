@@ -1,4 +1,4 @@
-// Package check finds the first of several errors.
+// Package check finds the first of several errors, and holds what several layers demand.
 package check
 
 import "boule/api"
@@ -42,4 +42,14 @@ func Each[T any](l []T, demand func(i int, x T) api.Errno) Condition {
 		}
 		return api.OK
 	}
+}
+
+// AreRanges reports whether all ranges lie between 0 and most.
+func AreRanges(most int, ranges ...api.Range) bool {
+	for _, r := range ranges {
+		if r.Low < 0 || r.Low > r.High || r.High > most {
+			return false
+		}
+	}
+	return true
 }

@@ -1,6 +1,7 @@
 package check_test
 
 import (
+	"math"
 	"slices"
 	"testing"
 
@@ -52,5 +53,18 @@ func TestEach(t *testing.T) {
 	}
 	if e := check.First(check.Each(nil, func(int, string) api.Errno { return api.ErrArg })); e != api.OK {
 		t.Error(e)
+	}
+}
+
+// R7: both limits are allowed.
+func TestAreRanges(t *testing.T) {
+	good := []api.Range{{}, {Low: 5, High: 5}, {Low: 0, High: 5}, {Low: 2, High: 3}}
+	if !check.AreRanges(5, good...) || !check.AreRanges(5) {
+		t.Error("valid ranges")
+	}
+	for _, bad := range []api.Range{{Low: -1, High: 2}, {Low: 3, High: 2}, {Low: 2, High: 6}, {Low: math.MinInt, High: math.MaxInt}, {Low: math.MaxInt, High: math.MinInt}} {
+		if check.AreRanges(5, append(slices.Clone(good), bad)...) {
+			t.Error(bad)
+		}
 	}
 }
