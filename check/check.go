@@ -1,4 +1,4 @@
-// Package check finds the first of several errors, and holds what several layers demand.
+// Package check finds the first of several errors, and holds what several layers ask of ranges.
 package check
 
 import "boule/api"
@@ -52,4 +52,16 @@ func AreRanges(most int, ranges ...api.Range) bool {
 		}
 	}
 	return true
+}
+
+// Grade says whether a number that can be all numbers of a range lies in another
+// one, which has no numbers if Low is above High.
+func Grade(known, wanted api.Range) api.Grade {
+	switch {
+	case wanted.Low <= known.Low && known.High <= wanted.High:
+		return api.Surely
+	case max(wanted.Low, known.Low) <= min(wanted.High, known.High):
+		return api.Possibly
+	}
+	return api.Never
 }

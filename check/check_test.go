@@ -68,3 +68,29 @@ func TestAreRanges(t *testing.T) {
 		}
 	}
 }
+
+// Both ends of what is wanted are wanted.
+func TestGrade(t *testing.T) {
+	for _, c := range []struct {
+		wanted api.Range
+		want   api.Grade
+	}{
+		{api.Range{Low: 3, High: 5}, api.Surely},
+		{api.Range{Low: 2, High: 6}, api.Surely},
+		{api.Range{Low: math.MinInt, High: math.MaxInt}, api.Surely},
+		{api.Range{Low: 4, High: 5}, api.Possibly},
+		{api.Range{Low: 3, High: 4}, api.Possibly},
+		{api.Range{Low: 4, High: 4}, api.Possibly},
+		{api.Range{Low: 0, High: 3}, api.Possibly},
+		{api.Range{Low: 5, High: 9}, api.Possibly},
+		{api.Range{Low: 0, High: 2}, api.Never},
+		{api.Range{Low: 6, High: 9}, api.Never},
+		{api.Range{Low: 5, High: 3}, api.Never},
+		{api.Range{Low: 5, High: 4}, api.Never},
+		{api.Range{Low: math.MaxInt, High: math.MinInt}, api.Never},
+	} {
+		if g := check.Grade(api.Range{Low: 3, High: 5}, c.wanted); g != c.want {
+			t.Error(c, g)
+		}
+	}
+}

@@ -39,7 +39,11 @@ func Judge(m api.Melt, l []api.Step, s api.Species, target api.Range) ([]api.Gra
 	r, _ := Predict(m, l)
 	grades := make([]api.Grade, len(r.Slices))
 	for i, x := range r.Slices {
-		grades[i] = grade(x.Content[s], contentsFor(target, x.Mass))
+		// All numbers from the least to the greatest content are contents in some
+		// course: what a step can choose, and what it can leave, has no gaps, as from
+		// one content of the melt to the next one the ends of both grow by a unit at
+		// most.
+		grades[i] = check.Grade(x.Content[s], contentsFor(target, x.Mass))
 	}
 	return grades, api.OK
 }
@@ -50,20 +54,6 @@ func contentsFor(target api.Range, mass int) api.Range {
 	low, _, _ := units.MulDiv(target.Low, mass, api.Kilogram, api.Up)
 	high, _, _ := units.MulDiv(target.High, mass, api.Kilogram, api.Down)
 	return api.Range{Low: low, High: high}
-}
-
-// grade says whether contents are wanted. All numbers from the least to the
-// greatest content are contents in some course: what a step can choose, and
-// what it can leave, has no gaps, as from one content of the melt to the next
-// one the ends of both grow by a unit at most.
-func grade(content, wanted api.Range) api.Grade {
-	switch {
-	case wanted.Low <= content.Low && content.High <= wanted.High:
-		return api.Surely
-	case max(wanted.Low, content.Low) <= min(wanted.High, content.High):
-		return api.Possibly
-	}
-	return api.Never
 }
 
 // notAbove reports whether a times b is at most c times d. None of them is below 0.
